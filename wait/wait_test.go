@@ -67,27 +67,57 @@ func plans(t *testing.T) map[string]plan.Plan {
 		"six threads alike":     of(t, api.Part{Threads: threads(8, 8, 8, 8, 8, 8), Objects: objects(true)}),
 		"three and three alike": of(t, api.Part{Threads: threads(0, 15, 0, 15, 0, 15), Objects: both()[1:]}),
 		"threads ahead of all":  turned(t),
+		"objects ahead of all":  objectsAhead(t),
+		"timers ahead of all":   timersAhead(t),
 	}
+}
+
+// moved answers the plan with each thing so many words further on.
+func moved(p plan.Plan, by int) plan.Plan {
+	move := func(at int) int { return at + by }
+	p.Lock, p.Clock, p.Ready, p.Timers, p.Table = move(p.Lock), move(p.Clock), move(p.Ready), move(p.Timers), move(p.Table)
+	for core := range 2 {
+		p.IPI[core], p.Current[core] = move(p.IPI[core]), move(p.Current[core])
+	}
+	for i := range p.Threads {
+		p.Threads[i] = move(p.Threads[i])
+	}
+	for o := range p.Objects {
+		p.Objects[o] = move(p.Objects[o])
+	}
+	p.Words = move(p.Words)
+	return p
 }
 
 // turned answers a plan as Of might make it: the threads stand ahead of all, the timers behind all.
 func turned(t *testing.T) plan.Plan {
 	t.Helper()
 	p := of(t, api.Part{Threads: threads(3, 5, 3), Objects: both()})
-	size := len(p.Threads) * plan.ThreadWords
-	move := func(at int) int { return at + size }
-	p.Lock, p.Clock, p.Ready, p.Table = move(p.Lock), move(p.Clock), move(p.Ready), move(p.Table)
-	for core := range 2 {
-		p.IPI[core], p.Current[core] = move(p.IPI[core]), move(p.Current[core])
-	}
-	for o := range p.Objects {
-		p.Objects[o] = move(p.Objects[o])
-	}
+	p = moved(p, len(p.Threads)*plan.ThreadWords)
 	for i := range p.Threads {
 		p.Threads[i] = i * plan.ThreadWords
 	}
-	p.Timers = move(p.Words)
-	p.Words = p.Timers + list.Words
+	p.Timers = p.Words
+	p.Words += list.Words
+	return p
+}
+
+// objectsAhead answers a plan as Of might make it: the objects stand ahead of all.
+func objectsAhead(t *testing.T) plan.Plan {
+	t.Helper()
+	p := of(t, api.Part{Threads: threads(3, 5, 3), Objects: both()})
+	p = moved(p, len(p.Objects)*plan.ObjectWords)
+	for o := range p.Objects {
+		p.Objects[o] = o * plan.ObjectWords
+	}
+	return p
+}
+
+// timersAhead answers a plan as Of might make it: the timers stand ahead of all.
+func timersAhead(t *testing.T) plan.Plan {
+	t.Helper()
+	p := moved(of(t, api.Part{Threads: threads(3, 5, 3), Objects: both()}), list.Words)
+	p.Timers = 0
 	return p
 }
 
